@@ -353,7 +353,7 @@ func poolOfSite(x site) []api.Entry {
 	return poolA
 }
 
-// P901: each instruction of the family over all Stacks of at most two places, held against the book; each operation must have been done.
+// P901: each instruction of the family, in three methods, over Stacks of none, of one place of each sort that is known, and of two whose last one is of fewer sorts, held against the book; each operation that takes at most two must have been done.
 func TestSmallStacksAgainstTheBook(t *testing.T) {
 	w := world(t)
 	met := map[int]int{}
