@@ -79,17 +79,20 @@ func (b body) right(f api.Frame) bool {
 
 // right is W7's.
 func right(w *hier.World, v api.VType) bool {
-	c, _, there := w.Class(v.Type.Name)
-	class := v.Type.Dims == 0 && there && c.Flags != api.FFace
+	there := len(w.Chain(v.Type.Name)) > 0
+	class := func() bool {
+		c, _, _ := w.Class(v.Type.Name)
+		return v.Type.Dims == 0 && there && c.Flags != api.FFace
+	}
 	switch v.Kind {
 	case api.VNum, api.VNil, api.VTop:
 		return v == api.VType{Kind: v.Kind}
 	case api.VRef:
 		return v.At == 0 && v.Type.Dims >= 0 && v.Type.Dims <= 8 && (there || v.Type.Name == "" && v.Type.Dims > 0)
 	case api.VFresh:
-		return v.At >= 0 && class
+		return v.At >= 0 && class()
 	case api.VSelf:
-		return v.At == 0 && class
+		return v.At == 0 && class()
 	}
 	return false
 }
